@@ -65,3 +65,14 @@ const everythingBytes = "\x12\x34\xcf\x86\x00\x02\x00\x01\x00\x02\x00\x01" +
 	"\x00\x00\x02\x00\x03\x00\x00\x00\x00\x00\x01\x00" +
 	"\x01v\x00\x00\x10\x00\x01\x00\x00\x00\x09\x00\x00" +
 	"\x01v\x00\x00\x01\x00\x01\xff\xff\xff\xff\x00\x04\x01\x02\x03\x04"
+
+// eachByteChanged does something with all bytes that differ from s in one place at most.
+func eachByteChanged(s string, do func(b []byte)) {
+	for i := range len(s) {
+		for x := range 256 {
+			b := []byte(s)
+			b[i] = byte(x)
+			do(b)
+		}
+	}
+}

@@ -49,13 +49,7 @@ func checkRead(t *testing.T, b []byte, m api.Message) {
 
 func TestP1UnpackAnyByte(t *testing.T) {
 	for _, s := range []string{everythingBytes, answer(5, 4, "\x01c\xc0\x0e"), chain(label(1), 20)} {
-		for i := range len(s) {
-			for x := range 256 {
-				b := []byte(s)
-				b[i] = byte(x)
-				checkUnpack(t, b)
-			}
-		}
+		eachByteChanged(s, func(b []byte) { checkUnpack(t, b) })
 	}
 }
 

@@ -2,7 +2,10 @@
 package trawl
 
 import (
+	"sync"
+
 	"trawl/api"
+	"trawl/search"
 	"trawl/wire"
 )
 
@@ -13,16 +16,37 @@ func Pack(m api.Message) ([]byte, api.Errno) { return wire.Pack(m) }
 func Unpack(b []byte) (api.Message, api.Errno) { return wire.Unpack(b) }
 
 // Resolver answers one question after the other.
-type Resolver struct{}
+type Resolver struct {
+	mutex sync.Mutex
+	state *search.State // several goroutines may call at a time: only who holds the mutex looks at it
+}
 
 // New makes a resolver (P5).
-func New(c api.Config) (*Resolver, api.Errno) { return nil, api.OK }
+func New(c api.Config) (*Resolver, api.Errno) {
+	state, e := search.New(c)
+	if e != api.OK {
+		return nil, e
+	}
+	return &Resolver{state: state}, api.OK
+}
 
 // Ask begins with a question (P6).
-func (r *Resolver) Ask(b []byte) (api.Step, api.Errno) { return api.Step{}, api.OK }
+func (r *Resolver) Ask(b []byte) (api.Step, api.Errno) {
+	r.mutex.Lock()
+	defer r.mutex.Unlock()
+	return r.state.Ask(b)
+}
 
 // Heard tells what has come from a server (P7).
-func (r *Resolver) Heard(from uint32, b []byte) (api.Step, api.Errno) { return api.Step{}, api.OK }
+func (r *Resolver) Heard(from uint32, b []byte) (api.Step, api.Errno) {
+	r.mutex.Lock()
+	defer r.mutex.Unlock()
+	return r.state.Heard(from, b)
+}
 
 // Late tells that nothing has come in time (P7).
-func (r *Resolver) Late() (api.Step, api.Errno) { return api.Step{}, api.OK }
+func (r *Resolver) Late() (api.Step, api.Errno) {
+	r.mutex.Lock()
+	defer r.mutex.Unlock()
+	return r.state.Late()
+}

@@ -2,9 +2,11 @@ package wire
 
 import "trawl/api"
 
-// What a message has beside its names and data, in bytes.
+// HeaderSize is how many bytes a message has at least.
+const HeaderSize = 12
+
+// What a question and a record have beside their names and data, in bytes.
 const (
-	headerSize   = 12
 	questionSize = 4
 	recordSize   = 10
 )

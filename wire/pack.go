@@ -28,7 +28,7 @@ func packedSize(m api.Message) (int, bool) {
 	if m.Op < 0 || m.Op > api.MaxOp || m.Code < 0 || m.Code > api.MaxCode {
 		return 0, false
 	}
-	size, ok := headerSize, true
+	size, ok := HeaderSize, true
 	for _, q := range m.Questions {
 		if size, ok = withQuestion(size, q); !ok {
 			return 0, false

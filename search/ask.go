@@ -1,0 +1,38 @@
+package search
+
+import (
+	"trawl/api"
+	"trawl/wire"
+)
+
+// Ask begins with a question, or answers at once why it does not.
+func (s *State) Ask(b []byte) (api.Step, api.Errno) {
+	if s.busy {
+		return api.Step{}, api.ErrBusy
+	}
+	if len(b) < wire.HeaderSize {
+		return api.Step{Kind: api.Answer}, api.OK
+	}
+	m, e := wire.Unpack(b)
+	// Of what is no message nothing was read: only its bytes tell whom to answer.
+	m.ID = uint16(b[0])<<8 | uint16(b[1])
+	switch {
+	case e != api.OK || m.Response:
+		return refusal(m.ID, api.BadForm, nil), api.OK
+	case len(m.Questions) != 1:
+		return refusal(m.ID, api.NotDone, nil), api.OK
+	case m.Op != 0 || m.Questions[0].Class != api.ClassIN:
+		return refusal(m.ID, api.NotDone, m.Questions), api.OK
+	}
+	return s.begin(m.Questions[0]), api.OK
+}
+
+func refusal(id uint16, code int, questions []api.Question) api.Step {
+	return answer(api.Message{ID: id, Response: true, Code: code, Questions: questions})
+}
+
+// begin begins the search, in the zone of the root.
+func (s *State) begin(q api.Question) api.Step {
+	s.busy = true
+	return s.send(s.config.Roots[0], q.Name, q.Type)
+}
