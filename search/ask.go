@@ -7,7 +7,7 @@ import (
 
 // Ask begins with a question, or answers at once why it does not.
 func (s *State) Ask(b []byte) (api.Step, api.Errno) {
-	if s.busy {
+	if s.next != nil {
 		return api.Step{}, api.ErrBusy
 	}
 	if len(b) < wire.HeaderSize {
@@ -24,15 +24,18 @@ func (s *State) Ask(b []byte) (api.Step, api.Errno) {
 	case m.Op != 0 || m.Questions[0].Class != api.ClassIN:
 		return refusal(m.ID, api.NotDone, m.Questions), api.OK
 	}
-	return s.begin(m.Questions[0]), api.OK
+	s.begin(m)
+	return s.goOn(), api.OK
 }
 
 func refusal(id uint16, code int, questions []api.Question) api.Step {
 	return answer(api.Message{ID: id, Response: true, Code: code, Questions: questions})
 }
 
-// begin begins the search, in the zone of the root.
-func (s *State) begin(q api.Question) api.Step {
-	s.busy = true
-	return s.send(s.config.Roots[0], q.Name, q.Type)
+func (s *State) begin(asked api.Message) {
+	s.reply = api.Message{ID: asked.ID, Response: true, Wanted: asked.Wanted, Able: true, Questions: asked.Questions}
+	s.lookUp(s.asked().Name)
 }
+
+// asked is the question that is being answered.
+func (s *State) asked() api.Question { return s.reply.Questions[0] }

@@ -12,7 +12,15 @@ import (
 type State struct {
 	config api.Config
 	lastID uint16 // of the question that was sent last, whatever was asked
-	busy   bool   // a question is being answered
+	task
+}
+
+// task is what is kept of a question as long as it is being answered.
+type task struct {
+	next  func() api.Step // what the search does next; nil if no question is being answered
+	chase *chase          // the one that goes on
+	sent  int             // so many questions, by all chases
+	reply api.Message     // as far as it is known: its Answers are the records by which names stand for others
 }
 
 // New makes the state of a resolver that is asked nothing.
@@ -26,34 +34,31 @@ func New(c api.Config) (*State, api.Errno) {
 }
 
 // Heard is told what has come from a server.
-func (s *State) Heard(from uint32, b []byte) (api.Step, api.Errno) { return s.wait() }
-
-// Late is told that nothing has come in time.
-func (s *State) Late() (api.Step, api.Errno) { return s.wait() }
-
-// wait does nothing, if there is something to wait for.
-func (s *State) wait() (api.Step, api.Errno) {
-	if !s.busy {
+func (s *State) Heard(from uint32, b []byte) (api.Step, api.Errno) {
+	if s.next == nil {
 		return api.Step{}, api.ErrBusy
 	}
-	return api.Step{}, api.OK
+	m, e := wire.Unpack(b)
+	if e != api.OK || !s.fits(from, m) {
+		return api.Step{}, api.OK
+	}
+	s.look(m)
+	return s.goOn(), api.OK
 }
 
-// send makes the step by which a question goes to a server.
-func (s *State) send(to uint32, name string, kind uint16) api.Step {
-	// 65535 is followed by 0: so it wraps round by itself.
-	s.lastID++
-	q := api.Question{Name: name, Type: kind, Class: api.ClassIN}
-	return api.Step{Kind: api.Send, To: to, Bytes: packed(api.Message{ID: s.lastID, Questions: []api.Question{q}})}
+// Late is told that nothing has come in time.
+func (s *State) Late() (api.Step, api.Errno) {
+	if s.next == nil {
+		return api.Step{}, api.ErrBusy
+	}
+	return s.goOn(), api.OK
 }
 
-// answer makes the step by which what was asked is answered.
-func answer(m api.Message) api.Step {
-	return api.Step{Kind: api.Answer, Bytes: packed(m)}
-}
-
-// packed is for messages with one question at most and nothing behind it: these are never refused, for a name has been read and leaves room.
-func packed(m api.Message) []byte {
-	b, _ := wire.Pack(m)
-	return b
+// goOn goes on until there is something that the caller is to do.
+func (s *State) goOn() api.Step {
+	for {
+		if step := s.next(); step.Kind != api.Nothing {
+			return step
+		}
+	}
 }
